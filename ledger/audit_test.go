@@ -117,7 +117,7 @@ func issues(c api.Calendar, l []api.Period, days int) []api.Issue {
 func TestAuditByDefinition(t *testing.T) {
 	random := newRandom()
 	kinds := map[int]int{}
-	for range 1500 {
+	for range 1000 {
 		c := pick(random, example(), uneven())
 		var l []api.Period
 		for range 1 + random.IntN(3) {
@@ -136,7 +136,7 @@ func TestAuditByDefinition(t *testing.T) {
 		}
 	}
 	for kind := api.IssueSum; kind <= api.IssueDeal; kind++ {
-		if kinds[kind] < 200 {
+		if kinds[kind] < 100 {
 			t.Errorf("only %d issues of the kind %d", kinds[kind], kind)
 		}
 	}
